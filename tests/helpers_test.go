@@ -15,19 +15,28 @@ var farNumbers = []int64{math.MinInt64, math.MinInt64 + 1, math.MinInt32, -256, 
 // wantNewMemory fails where the lists of two calls, or their spare room, are one.
 func wantNewMemory(t *testing.T, what string, call func() []int64) {
 	t.Helper()
+	wantNewLists(t, what, call, -7, -8)
+}
+
+// wantNewLists writes two fillers, so that each place of a list is changed by one of them at least.
+func wantNewLists[T comparable](t *testing.T, what string, call func() []T, filler T, other T) {
+	t.Helper()
 	want := slices.Clone(call())
-	first, second := call(), call()
-	for i := range first {
-		first[i] = -7
+	for _, written := range []T{filler, other} {
+		first, second := call(), call()
+		for i := range first {
+			first[i] = written
+		}
+		_ = append(first, written)
+		_ = append(first[:0], written, written, written)
+		if !slices.Equal(second, want) || !slices.Equal(call(), want) {
+			t.Errorf("%s: writing into one answer changes another one", what)
+		}
 	}
-	_ = append(first, -7)
-	_ = append(first[:0], -7, -7, -7)
-	if !slices.Equal(second, want) || !slices.Equal(call(), want) {
-		t.Errorf("%s: writing into one answer changes another one", what)
-	}
-	grown := append(second, 1)
-	_ = append(call(), 2)
-	if grown[len(second)] != 1 {
+	second := call()
+	grown := append(second, filler)
+	_ = append(call(), other)
+	if grown[len(second)] != filler {
 		t.Errorf("%s: two answers share their spare room", what)
 	}
 }
