@@ -416,35 +416,39 @@ func TestGraphsOfMaxBlocks(t *testing.T) {
 	}
 }
 
-// All functions of up to 4 blocks, as far as their edges go.
-func TestAllSmallGraphs(t *testing.T) {
-	for blocks := int64(1); blocks <= 4; blocks++ {
-		ends := []impl.End{ret(0)}
-		for to := int64(1); to < blocks; to++ {
-			ends = append(ends, jump(to))
-			for other := int64(1); other < blocks; other++ {
-				if other != to {
-					ends = append(ends, branch(0, to, other))
-				}
+// eachSmallGraph calls with each function of so many blocks, as far as their edges go.
+func eachSmallGraph(blocks int64, call func(f impl.Fun)) {
+	ends := []impl.End{ret(0)}
+	for to := int64(1); to < blocks; to++ {
+		ends = append(ends, jump(to))
+		for other := int64(1); other < blocks; other++ {
+			if other != to {
+				ends = append(ends, branch(0, to, other))
 			}
 		}
-		f := funOf(1, slices.Repeat(ends[:1], int(blocks))...)
-		checkEachEnd(t, f, ends, 0)
 	}
+	eachEndFrom(funOf(1, slices.Repeat(ends[:1], int(blocks))...), ends, 0, call)
 }
 
-// checkEachEnd gives the blocks from one on each of the ends.
-func checkEachEnd(t *testing.T, f impl.Fun, ends []impl.End, from int) {
-	t.Helper()
+// eachEndFrom gives the blocks from one on each of the ends.
+func eachEndFrom(f impl.Fun, ends []impl.End, from int, call func(f impl.Fun)) {
 	if from == len(f.Blocks) {
-		what := fmt.Sprint(impl.EdgesOf(f))
-		checkGraph(t, what, f)
-		checkAllCritical(t, what, f)
+		call(f)
 		return
 	}
 	for _, e := range ends {
 		f.Blocks[from].End = e
-		checkEachEnd(t, f, ends, from+1)
+		eachEndFrom(f, ends, from+1, call)
+	}
+}
+
+func TestAllSmallGraphs(t *testing.T) {
+	for blocks := int64(1); blocks <= 4; blocks++ {
+		eachSmallGraph(blocks, func(f impl.Fun) {
+			what := fmt.Sprint(impl.EdgesOf(f))
+			checkGraph(t, what, f)
+			checkAllCritical(t, what, f)
+		})
 	}
 }
 
@@ -483,9 +487,9 @@ func TestCriticalOfAnyNumbers(t *testing.T) {
 	}
 }
 
-func TestGraphsOfWrongFunctions(t *testing.T) {
-	edges := []impl.Edge{edge(0, 1), edge(0, 2), edge(2, 2), edge(2, 3), edge(1, 3)}
-	for _, c := range []change{
+// wrongChanges each make a full function wrong.
+func wrongChanges() []change {
+	return []change{
 		{"a name too few", false, func(f *impl.Fun) { f.Names = 9 }},
 		{"too many params", false, func(f *impl.Fun) { f.Params = 7 }},
 		{"no blocks", false, func(f *impl.Fun) { f.Blocks = nil }},
@@ -502,7 +506,12 @@ func TestGraphsOfWrongFunctions(t *testing.T) {
 		{"phis in the block 0", false, func(f *impl.Fun) { f.Blocks[0].Phis = []impl.Phi{phi(1)} }},
 		{"a wrong instruction in a lost block", false, func(f *impl.Fun) { f.Blocks[4].Body = []impl.Ins{{}} }},
 		{"two moves to one name", false, func(f *impl.Fun) { f.Blocks[4].Head = []impl.Move{move(1, 2), move(1, 3)} }},
-	} {
+	}
+}
+
+func TestGraphsOfWrongFunctions(t *testing.T) {
+	edges := []impl.Edge{edge(0, 1), edge(0, 2), edge(2, 2), edge(2, 3), edge(1, 3)}
+	for _, c := range wrongChanges() {
 		f := fullFun()
 		checkGraph(t, "full", f)
 		c.apply(&f)
