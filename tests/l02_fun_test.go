@@ -800,16 +800,21 @@ func anyFun(r *rand.Rand) impl.Fun {
 	for range blocks {
 		f.Blocks = append(f.Blocks, impl.Block{Head: anyMoves(r, names), Body: anyBody(r, names), Tail: anyMoves(r, names), End: anyEnd(r, names, blocks)})
 	}
+	addPhis(r, &f, names)
+	return f
+}
+
+// addPhis wants a function whose Ends stay, as the Args are by the preds.
+func addPhis(r *rand.Rand, f *impl.Fun, names int64) {
 	for at := range f.Blocks {
 		for n := r.Intn(impl.MaxPhis + 1); at > 0 && n > 0; n-- {
 			p := phi(r.Int63n(names))
-			for range predsRight(f, int64(at)) {
+			for range predsRight(*f, int64(at)) {
 				p.Args = append(p.Args, r.Int63n(names))
 			}
 			f.Blocks[at].Phis = append(f.Blocks[at].Phis, p)
 		}
 	}
-	return f
 }
 
 func TestManyFunctions(t *testing.T) {
