@@ -727,27 +727,22 @@ func TestRunsOfWrongFunctions(t *testing.T) {
 	checkWanted(t, "a lost block", f, nil, returned(0, 1))
 }
 
-// followsRight tells by the place of each number, where it can be told by the Status.
+// followsRight tells by the place of each number; what is asked of b is asked where a has that Status alone.
 func followsRight(a impl.Out, b impl.Out) bool {
 	alike := 0
 	for alike < len(a.Emits) && alike < len(b.Emits) && a.Emits[alike] == b.Emits[alike] {
 		alike++
 	}
-	switch [2]int64{a.Status, b.Status} {
-	case [2]int64{2, 2}:
-		return a.Value == b.Value && alike == len(a.Emits) && alike == len(b.Emits)
-	case [2]int64{1, 1}, [2]int64{1, 2}:
-		return alike == len(a.Emits)
+	holds := map[int64]bool{
+		1: alike == len(a.Emits),
+		2: b.Status == 2 && a.Value == b.Value && alike == len(a.Emits) && alike == len(b.Emits),
 	}
-	return false
+	held, isAsked := holds[a.Status]
+	return a.Status != 0 && b.Status != 0 && (held || !isAsked)
 }
 
 func TestFollowsTold(t *testing.T) {
-	for _, c := range []struct {
-		what string
-		a, b impl.Out
-		want bool
-	}{
+	checkFollows(t, []followed{
 		{"the same", returned(3, 5, 1, 2), returned(3, 5, 1, 2), true},
 		{"other visits", returned(3, 5, 1, 2), returned(3, 90, 1, 2), true},
 		{"another value", returned(3, 5, 1, 2), returned(4, 5, 1, 2), false},
@@ -785,7 +780,48 @@ func TestFollowsTold(t *testing.T) {
 		{"stopped and bad", stopped(0), impl.Out{}, false},
 		{"bad with emits", impl.Out{Emits: []int64{1}}, returned(0, 1, 1), false},
 		{"stopped, then bad with emits", stopped(1, 1), impl.Out{Emits: []int64{1}}, false},
-	} {
+	})
+}
+
+// noName is an Out with a Status that chapter 6 does not name.
+func noName(status int64, emits ...int64) impl.Out {
+	return impl.Out{Status: status, Value: 1, Emits: emits, Visits: 4}
+}
+
+// TestFollowsOfNoName has first what was once answered false, as if each Status of no name were StBad.
+func TestFollowsOfNoName(t *testing.T) {
+	checkFollows(t, []followed{
+		{"stopped, then -1", impl.Out{Status: 1, Value: 1}, impl.Out{Status: -1, Value: 1, Emits: []int64{1}}, true},
+		{"stopped, then the largest one", impl.Out{Status: 1, Emits: []int64{5}, Visits: 2}, impl.Out{Status: 9223372036854775807, Value: 10, Emits: []int64{5}}, true},
+		{"-1, then returned", impl.Out{Status: -1}, impl.Out{Status: 2, Value: 1, Emits: []int64{0}, Visits: 7}, true},
+		{"3, then -2", impl.Out{Status: 3, Value: 1, Visits: 4}, impl.Out{Status: -2, Value: 1, Emits: []int64{1}, Visits: 4}, true},
+		{"3, then stopped", noName(3, 0), stopped(5, 0), true},
+		{"3, then itself", noName(3, 0, 1), noName(3, 0, 1), true},
+		{"3, then returned with another value", noName(3, 5), returned(9, 1, 5), true},
+		{"3, then another emit", noName(3, 5), returned(1, 1, 6), true},
+		{"3, then an emit less", noName(3, 5, 6), stopped(1, 5), true},
+		{"3, then no emits", noName(3, 5), noName(4), true},
+		{"stopped, then 3 with more", stopped(5, 1), noName(3, 1, 2), true},
+		{"stopped, then 3 with another emit", stopped(5, 1), noName(3, 2, 1), false},
+		{"stopped, then 3 with an emit less", stopped(5, 1, 2), noName(3, 1), false},
+		{"returned, then 3 with the same", returned(1, 4, 5), noName(3, 5), false},
+		{"returned, then -1 with the same", returned(1, 4), noName(-1), false},
+		{"bad, then 3", impl.Out{}, noName(3), false},
+		{"bad, then -1", impl.Out{Value: 1, Emits: []int64{5}}, noName(-1, 5), false},
+		{"3, then bad", noName(3), impl.Out{}, false},
+		{"-1, then bad", noName(-1, 5), impl.Out{Value: 1, Emits: []int64{5}}, false},
+	})
+}
+
+type followed struct {
+	what string
+	a, b impl.Out
+	want bool
+}
+
+func checkFollows(t *testing.T, told []followed) {
+	t.Helper()
+	for _, c := range told {
 		if got := impl.Follows(c.a, c.b); got != c.want {
 			t.Errorf("%s: Follows %v, %v is %v", c.what, c.a, c.b, got)
 		}
@@ -795,7 +831,7 @@ func TestFollowsTold(t *testing.T) {
 	}
 }
 
-// TestFollowsByStatus takes each two of all statuses; one of no name is as StBad, as no run ends so.
+// TestFollowsByStatus takes each two of all statuses, those of no name, too.
 func TestFollowsByStatus(t *testing.T) {
 	statuses := append([]int64{-2, -1, 0, 1, 2, 3, 4, 257, 258}, farNumbers...)
 	lists := [][]int64{nil, {}, {1}, {2}, {1, 2}, {1, 3}, {1, 2, 3}}
